@@ -88,7 +88,10 @@ func checkNotRead(t *testing.T, text string) {
 
 // madeSum grows a sum that may have any word, and is not much longer than size.
 func madeSum(random *rand.Rand, size int) []string {
-	heads := []string{"say", "throw", "mark", "cut", "add", "below", "both", "keep", "bind", "try", "go", "if"}
+	return madeOf(random, size, "say", "throw", "mark", "cut", "add", "below", "both", "keep", "bind", "try", "go", "if")
+}
+
+func madeOf(random *rand.Rand, size int, heads ...string) []string {
 	ends := []string{"arg", "ask", "0", "1", "2", "3", "-7", "1000000"}
 	made, missing := []string{}, int64(1)
 	for missing > 0 {
